@@ -195,15 +195,15 @@ func folderTexts() []string {
 	return list
 }
 
-// changedTexts returns the texts that differ from a text in one byte: one less, one more, or another one.
+// changedTexts returns a text, all texts that differ from it in one byte (one less, one more, or another one), and its beginnings and ends.
 func changedTexts(text string) []string {
-	signs := "abdfzAF0179=;: -+_\x00\n\xff"
 	list := []string{text}
 	for i := 0; i <= len(text); i++ {
-		for j := range len(signs) {
-			list = append(list, text[:i]+signs[j:j+1]+text[i:])
+		for b := range 256 {
+			sign := string([]byte{byte(b)})
+			list = append(list, text[:i]+sign+text[i:])
 			if i < len(text) {
-				list = append(list, text[:i]+signs[j:j+1]+text[i+1:])
+				list = append(list, text[:i]+sign+text[i+1:])
 			}
 		}
 		if i < len(text) {
