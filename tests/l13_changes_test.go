@@ -117,6 +117,11 @@ func wantedCarry(s walkStore, list []impl.Change, other int) changed {
 	if len(list) > 30 {
 		return refused
 	}
+	return wantedAll(s, list, other)
+}
+
+// wantedAll returns what carrying any number of changes leads to.
+func wantedAll(s walkStore, list []impl.Change, other int) changed {
 	texts, root := textsByPrint(s.store), s.root
 	for _, change := range list {
 		put, ok := textsOfChange(texts, root, change, other)
